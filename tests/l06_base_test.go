@@ -492,13 +492,56 @@ func TestShowBaseOfRightBases(t *testing.T) {
 	}
 }
 
+// wantFirst: TableIn finds the first Table of that name, whatever the list,
+// and none only where no Table has it.
+func wantFirst(t *testing.T, name string, b base, table string) {
+	t.Helper()
+	if at := placeIn(b, table); at >= 0 {
+		wantIn(t, name, b, table, b[at], true)
+		return
+	}
+	wantIn(t, name, b, table, impl.Table{}, false)
+}
+
+func TestTableInOfListsThatAreNoBases(t *testing.T) {
+	empty := func(name string) impl.Table { return namedTable(name, 1, 0) }
+	six := base{empty("p"), empty("q"), empty("r"), empty("s"), empty("t"), empty("u")}
+	for i, name := range []string{"p", "q", "r", "s", "t", "u"} {
+		wantIn(t, "one too many", six, name, six[i], true)
+	}
+	wantIn(t, "one too many", six, "v", impl.Table{}, false)
+	two, nameless := baseOf("t", "u"), namedTable("", 2, 1)
+	for i, name := range []string{"t", "u"} {
+		wantIn(t, "a wrong one ahead", base{nameless, two[0], two[1]}, name, two[i], true)
+		wantIn(t, "a wrong one between", base{two[0], nameless, two[1]}, name, two[i], true)
+		wantIn(t, "a wrong one behind", base{two[0], two[1], nameless}, name, two[i], true)
+		wantIn(t, "names fall", base{two[0], two[1], empty("p")}, name, two[i], true)
+		wantIn(t, "two others alike", base{two[0], two[1], empty("p"), empty("p")}, name, two[i], true)
+	}
+	wantIn(t, "the last two alike", base{two[0], two[1], empty("u")}, "t", two[0], true)
+	wantIn(t, "a wrong one behind", base{two[0], two[1], nameless}, "v", impl.Table{}, false)
+	wantIn(t, "names fall", base{two[0], two[1], empty("p")}, "v", impl.Table{}, false)
+}
+
+// Of two of that name it is the first one, and a Table that is not right
+// itself is there as well.
+func TestTableInOfTheFirstOfTwoAndOfAWrongTable(t *testing.T) {
+	b := base{namedTable("t", 2, 3), namedTable("u", 1, 1), namedTable("t", 1, 0), namedTable("u", 3, 4)}
+	wantIn(t, "the first of two", b, "t", b[0], true)
+	wantIn(t, "the first of two", b, "u", b[1], true)
+	for what, x := range wrongTables() {
+		wantIn(t, what, base{x}, x.Name, x, true)
+		wantIn(t, what+", between", base{namedTable("a", 1, 1), x, namedTable("z", 1, 1)}, x.Name, x, true)
+	}
+}
+
 // What is no base goes ahead of all else: also of what is there, of what is
-// not right, and of what there is no room for.
+// not right, and of what there is no room for. TableIn alone asks for no base.
 func TestAllAskedOfWrongBases(t *testing.T) {
 	for name, b := range wrongBases() {
 		wantShown(t, name, b, "")
 		for _, table := range []string{"a", "b", "e", "q", "t", "u", "y", "z", "", "A", "abcdefg"} {
-			wantIn(t, name, b, table, impl.Table{}, false)
+			wantFirst(t, name, b, table)
 			wantMade(t, name, b, table, []string{"a", "b"}, nil, false)
 			wantMade(t, name, b, table, nil, nil, false)
 			wantDropped(t, name, b, table, nil, false)
@@ -506,7 +549,7 @@ func TestAllAskedOfWrongBases(t *testing.T) {
 			wantReplaced(t, name, b, impl.Table{Name: table}, nil, false)
 		}
 		for _, x := range b[:min(len(b), 7)] {
-			wantIn(t, name, b, x.Name, impl.Table{}, false)
+			wantFirst(t, name, b, x.Name)
 			wantMade(t, name, b, x.Name, x.Columns, nil, false)
 			wantDropped(t, name, b, x.Name, nil, false)
 			wantReplaced(t, name, b, x, nil, false)
