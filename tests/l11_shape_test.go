@@ -291,32 +291,37 @@ func TestShapesOfABaseWithoutTables(t *testing.T) {
 	}
 }
 
-func TestEachCodeByItself(t *testing.T) {
+func TestNoTableAndTwiceByThemselves(t *testing.T) {
 	wantShapes(t, map[string]string{
-		"from x":                                  "table",
-		"from tt":                                 "table",
-		"from a":                                  "table",
-		"from count":                              "table",
-		"from t | join x on a":                    "table",
-		"from t | left x on 5":                    "table",
-		"from t | join c on a":                    "table",
-		"from t | let a = 5":                      "twice",
-		"from t | let b = a":                      "twice",
-		"from t | let b = b":                      "twice",
-		"from w | let z = p":                      "twice",
-		"from t | join t on a = b":                "twice",
-		"from t | left t on 5":                    "twice",
-		"from t | join v on a":                    "twice",
-		"from v | left t on b":                    "twice",
-		"from u | let a = c | join t on b = 5":    "twice",
-		"from t | let c = a | left u on a":        "twice",
-		"from n | group count":                    "twice",
-		"from t | group a | group count":          "twice",
-		"from t | group a | group a count":        "twice",
-		"from t | group a | group count a":        "twice",
-		"from t | group a | let count = 5":        "twice",
-		"from t | let count = 5 | group a count":  "twice",
-		"from t | group | join n on count < 5":    "twice",
+		"from x":                                 "table",
+		"from tt":                                "table",
+		"from a":                                 "table",
+		"from count":                             "table",
+		"from t | join x on a":                   "table",
+		"from t | left x on 5":                   "table",
+		"from t | join c on a":                   "table",
+		"from t | let a = 5":                     "twice",
+		"from t | let b = a":                     "twice",
+		"from t | let b = b":                     "twice",
+		"from w | let z = p":                     "twice",
+		"from t | join t on a = b":               "twice",
+		"from t | left t on 5":                   "twice",
+		"from t | join v on a":                   "twice",
+		"from v | left t on b":                   "twice",
+		"from u | let a = c | join t on b = 5":   "twice",
+		"from t | let c = a | left u on a":       "twice",
+		"from n | group count":                   "twice",
+		"from t | group a | group count":         "twice",
+		"from t | group a | group a count":       "twice",
+		"from t | group a | group count a":       "twice",
+		"from t | group a | let count = 5":       "twice",
+		"from t | let count = 5 | group a count": "twice",
+		"from t | group | join n on count < 5":   "twice",
+	})
+}
+
+func TestNoColumnAndTooManyByThemselves(t *testing.T) {
+	wantShapes(t, map[string]string{
 		"from t | where x":                        "column",
 		"from t | where a + b < c":                "column",
 		"from t | where lacks x":                  "column",
